@@ -55,7 +55,7 @@ func Parse(s string) (api.Version, error) {
 	}
 	if i := strings.LastIndexByte(v.Upstream, '-'); i >= 0 {
 		v.Upstream, v.Revision = v.Upstream[:i], v.Upstream[i+1:]
-		// Right takes no revision for one that is left out: here it is there, and empty.
+		// Right takes an empty revision for one that is left out, but here a - tells of one.
 		if v.Revision == "" {
 			return api.Version{}, api.ErrForm
 		}
