@@ -75,11 +75,11 @@ func (c *Crew) callOthers(name string, l []check.Known) ([]string, error) {
 		if len(called) == maxCalled {
 			break
 		}
-		path := listens(k.Pack, paths)
-		if path == "" || k.Pack.Name == name || !status.May(k.Status.State, status.Called) {
+		tasks := heard(k.Pack, paths)
+		if len(tasks) == 0 || k.Pack.Name == name || !status.May(k.Status.State, status.Called) {
 			continue
 		}
-		if err := c.charge(k.Pack.Name, path); err != nil {
+		if err := c.charge(k.Pack.Name, tasks); err != nil {
 			return nil, err
 		}
 		called = append(called, k.Pack.Name)
@@ -87,25 +87,26 @@ func (c *Crew) callOthers(name string, l []check.Known) ([]string, error) {
 	return called, nil
 }
 
-// listens is the first that a package listens for, and that is one of the paths, or above one; empty: none.
-func listens(p api.Pack, paths []string) string {
-	for _, heard := range p.Listens {
-		here := func(path string) bool { return path == heard || strings.HasPrefix(path, heard+"/") }
-		if slices.ContainsFunc(paths, here) {
-			return heard
+// heard is, of each of the paths that a package listens for, what it listens for there: the path, or one above it. Each path is looked at by itself: what is first in Listens for one does not count for another.
+func heard(p api.Pack, paths []string) []string {
+	var l []string
+	for _, path := range paths {
+		hears := func(s string) bool { return path == s || strings.HasPrefix(path, s+"/") }
+		if i := slices.IndexFunc(p.Listens, hears); i >= 0 {
+			l = append(l, p.Listens[i])
 		}
 	}
-	return ""
+	return l
 }
 
-// charge lets a package have a task, beside those that it has.
-func (c *Crew) charge(name, task string) error {
+// charge lets a package have tasks, beside those that it has: all of them at once, so that the power leaves none behind.
+func (c *Crew) charge(name string, more []string) error {
 	s := c.Status(name)
 	next, err := status.Next(s.State, status.Called)
 	if err != nil {
 		return err
 	}
-	tasks := append(s.Tasks, task)
+	tasks := slices.Concat(s.Tasks, more)
 	slices.Sort(tasks)
 	tasks = slices.Compact(tasks)
 	s.State, s.Tasks = next, tasks[:min(len(tasks), maxTasks)]

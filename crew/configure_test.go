@@ -61,7 +61,7 @@ func TestConfigureDepends(t *testing.T) {
 
 // Promise 12.3: who listens for a path, or for one above it, is called.
 func TestCalled(t *testing.T) {
-	for _, x := range []struct{ listens, task string }{
+	for _, x := range []struct{ listens, tasks string }{
 		{"bin/x", "bin/x"},
 		{"bin", "bin"},
 		{"lib/a/b", "lib/a/b"},
@@ -74,18 +74,27 @@ func TestCalled(t *testing.T) {
 		{"bin/xx", ""},
 		{"x", ""},
 		{"lib/a/b/c", ""},
-		{"other bin/y lib bin", "lib"},
-		{"bin lib", "bin"},
+		{"other bin/y lib", "lib"},
 		{"bin/x bin", "bin/x"},
 		{"zz bin bin/x", "bin"},
+		{"lib lib/a lib/a/b", "lib"},
+		{"lib/a lib lib/a/b", "lib/a"},
+		{"lib/a/b lib/a lib", "lib/a/b"},
+		{"bin lib", "bin,lib"},
+		{"lib bin", "bin,lib"},
+		{"other bin/y lib bin", "bin,lib"},
+		{"lib/a/b etc/s", "etc/s,lib/a/b"},
+		{"lib/a lib bin bin/x", "bin,lib/a"},
+		{"lib etc bin", "bin,etc"},
+		{"lib/a/b/c bin/x/y etc", "etc"},
 		{"Bin", ""},
 	} {
 		c, _ := fresh(t)
 		install(t, c, pack("bb", "listens "+x.listens), pack("aa", "file lib/a/b=1", "file bin/x=1", "setting etc/s=1"))
-		if x.task == "" {
+		if x.tasks == "" {
 			stand(t, x.listens, c, "aa 7 1.0 free - -", "bb 7 1.0 free - -")
 		} else {
-			stand(t, x.listens, c, "aa 5 1.0 free bb -", "bb 6 1.0 free - "+x.task)
+			stand(t, x.listens, c, "aa 5 1.0 free bb -", "bb 6 1.0 free - "+x.tasks)
 		}
 	}
 }
@@ -133,10 +142,40 @@ func TestTasks(t *testing.T) {
 		install(t, c, pack(name, "file "+x.file+"=1"))
 		stand(t, x.file, c, "zz 6 1.0 free - "+x.tasks, name+" 5 1.0 free zz -")
 	}
-	// Of a package with several paths the first that is listened for counts alone.
-	c, _ = fresh(t)
-	install(t, c, pack("zz", "listens d c b a"), pack("aa", "file a=1", "file b=1", "file c=1"))
-	stand(t, "several", c, "zz 6 1.0 free - c", "aa 5 1.0 free zz -")
+}
+
+// Promise 12.3: of several paths of a package each counts by itself, for each the first of Listens.
+func TestTasksOfSeveral(t *testing.T) {
+	for _, x := range []struct{ listens, files, tasks string }{
+		{"bin/x lib/a", "bin/x lib/a/b", "bin/x,lib/a"},
+		{"lib/a bin/x", "bin/x lib/a/b", "bin/x,lib/a"},
+		{"bin bin/y", "bin/x bin/y", "bin"},
+		{"bin/y bin", "bin/x bin/y", "bin,bin/y"},
+		{"bin/y bin", "bin/y", "bin/y"},
+		{"bin/y bin/x bin", "bin/x bin/y bin/z", "bin,bin/x"},
+		{"d c b a", "a b c", "a,b"},
+		{"d c b", "a b c", "b,c"},
+		{"d", "a b d/1 d/2", "d"},
+	} {
+		c, d := fresh(t)
+		p := pack("aa")
+		for _, path := range strings.Fields(x.files) {
+			p.Files = append(p.Files, api.File{Path: path})
+		}
+		install(t, c, pack("zz", "listens "+x.listens), p)
+		want := []string{"zz 6 1.0 free - " + x.tasks, "aa 5 1.0 free zz -"}
+		stand(t, fmt.Sprint(x), c, want...)
+		stand(t, fmt.Sprint(x, " opened anew"), open(t, d), want...)
+	}
+	// They come beside those that it has, and it is one of those that are called, however many they are.
+	c, _ := fresh(t)
+	for _, name := range []string{"z0", "z1", "z2", "z3", "z4"} {
+		install(t, c, pack(name, "listens a b c"))
+	}
+	install(t, c, pack("aa", "file b=1"))
+	stand(t, "one", c, "aa 5 1.0 free z0,z1,z2,z3 -", "z0 6 1.0 free - b", "z3 6 1.0 free - b", "z4 7 1.0 free - -")
+	install(t, c, pack("bb", "file c=1", "file a=1"))
+	stand(t, "two more", c, "bb 5 1.0 free z0,z1,z2,z3 -", "z0 6 1.0 free - a,b", "z3 6 1.0 free - a,b", "z4 7 1.0 free - -")
 }
 
 // Promise 12.3: nobody is called by one whose script does not well, or that may not start.

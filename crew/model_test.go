@@ -159,8 +159,8 @@ func (m *model) configure(name string, with []string) error {
 		if other == name || len(waits) == 4 || state != api.Awaited && state != api.Pending && state != api.Installed {
 			continue
 		}
-		if heard := m.heard(name, other); heard != "" {
-			tasks := append(slices.Clone(y.status.Tasks), heard)
+		if heard := m.heard(name, other); len(heard) > 0 {
+			tasks := append(slices.Clone(y.status.Tasks), heard...)
 			slices.Sort(tasks)
 			tasks = slices.Compact(tasks)
 			y.status.Tasks = tasks[:min(2, len(tasks))]
@@ -178,18 +178,22 @@ func (m *model) configure(name string, with []string) error {
 	return nil
 }
 
-// heard is the first that one listens for of another one's paths; empty: none.
-func (m *model) heard(name, by string) string {
-	for _, heard := range m.packs[by].pack.Listens {
-		for _, path := range m.shelf().Paths(name) {
-			for ; path != ""; path = path[:max(0, strings.LastIndex(path, "/"))] {
-				if path == heard {
-					return heard
-				}
+// heard is what one listens for of another one's paths: of each path the first of Listens that it is, or that is above it.
+func (m *model) heard(name, by string) []string {
+	var l []string
+	listens := m.packs[by].pack.Listens
+	for _, path := range m.shelf().Paths(name) {
+		first := len(listens)
+		for ; path != ""; path = path[:max(0, strings.LastIndex(path, "/"))] {
+			if i := slices.Index(listens, path); i >= 0 {
+				first = min(first, i)
 			}
 		}
+		if first < len(listens) {
+			l = append(l, listens[first])
+		}
 	}
-	return ""
+	return l
 }
 
 func (m *model) configureAll() (int, error) {
@@ -456,8 +460,8 @@ func (d *die) pack() api.Pack {
 			l = append(l, strings.ReplaceAll(d.terms(x.word), " | ", ", "))
 		}
 	}
-	if d.yes(2) {
-		l = append(l, d.of("listens bin", "listens bin/x etc", "listens doc lib", "listens lib/a bin"))
+	if !d.yes(4) {
+		l = append(l, d.of("listens bin", "listens bin/x etc", "listens doc lib", "listens lib/a bin", "listens bin bin/x", "listens lib/a lib etc bin/y bin"))
 	}
 	for _, path := range []string{"bin/x", "bin/y", "etc/a", "etc/b", "lib/a/b", "doc"} {
 		if d.yes(4) {

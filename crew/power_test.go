@@ -89,6 +89,7 @@ func stories() []story {
 		{"of settings alone", append(slices.Clone(mine), removes("aa", false)), unpacks(next, true)},
 		{"configure", append(slices.Clone(waits), unpacks(next)), configures("aa")},
 		{"configure, nobody is called", append(slices.Clone(waits), unpacks(pack("ee", "file e=e"))), configures("ee")},
+		{"configure, several tasks", append(installs(pack("b0", "listens lib bin"), pack("b1", "listens bin/x doc bin")), unpacks(taker), unpacks(next)), configures("dd")},
 		{"configure, all", append(slices.Clone(waits), unpacks(taker)), configures("dd", "aa")},
 		{"configure with", append(slices.Clone(waits), unpacks(pack("ee", "depends ff", "file bin/e=e")), unpacks(pack("ff", "depends ee"))), configures("ee", "ff")},
 		{"help", waits, helps("b0")},
