@@ -32,6 +32,35 @@ func (c *Crew) Configure(name string, with []string) error {
 	if err := check.Configure(l, slices.Index(names, name), about); err != nil {
 		return err
 	}
+	return c.start(name, l)
+}
+
+// ConfigureAll lets all that are about to do what they are there for, in line (each with all of them); those whose script did not do well, or which miss something, stay: how many did.
+func (c *Crew) ConfigureAll() (int, error) {
+	if c.Down() {
+		return 0, api.ErrDevice
+	}
+	names, l := c.known()
+	line := check.Line(l)
+	done := 0
+	for _, i := range line {
+		// Who may not changes nothing, so that what is known is not read anew for it.
+		if check.Configure(l, i, line) != nil {
+			continue
+		}
+		switch err := c.start(names[i], l); {
+		case err == nil:
+			done++
+		case c.Down():
+			return 0, err
+		}
+		_, l = c.known()
+	}
+	return done, nil
+}
+
+// start lets a package that may do what it is there for, and calls others, of those that are known.
+func (c *Crew) start(name string, l []check.Known) error {
 	if err := c.comes(name, status.Starts); err != nil {
 		return err
 	}
@@ -43,28 +72,6 @@ func (c *Crew) Configure(name string, with []string) error {
 		return err
 	}
 	return c.works(name, called)
-}
-
-// ConfigureAll lets all that are about to do what they are there for, in line (each with all of them); those whose script did not do well, or which miss something, stay: how many did.
-func (c *Crew) ConfigureAll() (int, error) {
-	if c.Down() {
-		return 0, api.ErrDevice
-	}
-	names, l := c.known()
-	var line []string
-	for _, i := range check.Line(l) {
-		line = append(line, names[i])
-	}
-	done := 0
-	for _, name := range line {
-		switch err := c.Configure(name, line); {
-		case err == nil:
-			done++
-		case c.Down():
-			return 0, err
-		}
-	}
-	return done, nil
 }
 
 // callOthers lets others that listen for a package's paths have something to do, and tells their names. It is done ahead of its working: wherever it ends, nobody waits for one that was not called, and done again, it calls the same ones.
